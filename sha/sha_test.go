@@ -227,6 +227,19 @@ func TestSumOnTheWay(t *testing.T) {
 	}
 }
 
+// SumOf joins its pieces as Writes do.
+func TestSumOfPieces(t *testing.T) {
+	b := some(200)
+	if got := sha.SumOf(); got != want(nil) {
+		t.Errorf("of no piece: got %x, want %x", got, want(nil))
+	}
+	for cut := range len(b) + 1 {
+		if got := sha.SumOf(b[:cut], nil, b[cut:]); got != want(b) {
+			t.Errorf("cut at %d: got %x, want %x", cut, got, want(b))
+		}
+	}
+}
+
 func TestTwoHashersAreApart(t *testing.T) {
 	a, b := sha.New(), sha.New()
 	x, y := some(100), some(101)
