@@ -380,6 +380,31 @@ func TestRootOfTooMany(t *testing.T) {
 	}
 }
 
+// Split: by which number of leaves Root halves.
+
+func TestSplit(t *testing.T) {
+	for n := 2; n <= 2*api.MaxLeaves; n++ {
+		if got, want := tree.Split(n), wantSplit(n); got != want {
+			t.Errorf("of %d: got %d, want %d", n, got, want)
+		}
+	}
+	for _, power := range []int{20, 32, 33, 61, 62} {
+		for n, want := range map[int]int{1<<power - 1: 1 << (power - 1), 1 << power: 1 << (power - 1), 1<<power + 1: 1 << power} {
+			if got := tree.Split(n); got != want {
+				t.Errorf("of %d: got %d, want %d", n, got, want)
+			}
+		}
+	}
+	if got := tree.Split(math.MaxInt); got != 1<<62 {
+		t.Errorf("of the greatest number: got %d", got)
+	}
+	for _, n := range []int{1, 0, -1, -2, -256, math.MinInt, math.MinInt + 1} {
+		if got := tree.Split(n); got != 0 {
+			t.Errorf("of %d: got %d, want 0", n, got)
+		}
+	}
+}
+
 // TE2: Path.
 
 // Paths that another program has told.
