@@ -1235,3 +1235,53 @@ func TestJoinBehindAnError(t *testing.T) {
 		joins(t, "behind errors", ss, want)
 	}
 }
+
+// What packages further down ask of shares: their values at other places than 0, and what is wrong with them.
+
+func TestAtOfEachPlace(t *testing.T) {
+	for _, n := range []int{1, 2, 3, 7, most} {
+		ss := made(places(n, 250, 13), 3)
+		for x := range 256 {
+			var want []byte
+			for i := range 3 {
+				var ats, values []byte
+				for _, s := range ss {
+					ats, values = append(ats, s.At), append(values, s.Data[i])
+				}
+				want = append(want, wantValue(wantPolynomial(ats, values), byte(x)))
+			}
+			if got := share.At(ss, byte(x)); !bytes.Equal(got, want) {
+				t.Fatalf("At %d of %d: got %v, want %v", x, n, got, want)
+			}
+		}
+	}
+}
+
+func TestAtWhereAShareStands(t *testing.T) {
+	ss := made(places(most, 0, 13), 6)
+	for _, s := range ss {
+		b := share.At(ss, s.At)
+		if !bytes.Equal(b, s.Data) {
+			t.Errorf("At %d: got %v, want %v", s.At, b, s.Data)
+		}
+		clear(b[:cap(b)])
+	}
+	sameShares(t, "what was handed in", ss, made(places(most, 0, 13), 6))
+}
+
+func TestCheckOfPlaces(t *testing.T) {
+	for x := range 256 {
+		for _, bounds := range [][2]byte{{0, 255}, {1, 255}, {0, 19}, {0, 0}, {255, 255}, {7, 8}} {
+			var want api.Errno
+			if byte(x) < bounds[0] || byte(x) > bounds[1] {
+				want = api.ErrRange
+			}
+			if err := share.Check([]api.Share{of(byte(x), 1)}, bounds[0], bounds[1]); plain.Told(err) != want {
+				t.Errorf("Check of a share at %d, from %v: got %v, want %v", x, bounds, err, want)
+			}
+		}
+	}
+	if err := share.Check(nil, 1, 255); err != nil {
+		t.Errorf("Check of none: got %v", err)
+	}
+}
